@@ -93,15 +93,16 @@ func (c typeCheck) isOutOfRange() bool {
 			return true
 		}
 	}
-	return c.has.root && !c.isRootInRange()
+	return !c.isRootInRange()
 }
 
 func isTag(g api.Tag) bool {
 	return g.Class > api.ClassUniversal && g.Class < api.Classes && g.Number >= 0 && g.Number <= api.MaxTag && g.Way >= 0 && g.Way < api.TagWays
 }
 
+// isRootInRange is about every kind of type: one without a root may have fields, too.
 func (c typeCheck) isRootInRange() bool {
-	if c.Open {
+	if c.Open || !c.has.root {
 		return c.Root >= 0 && c.Root <= len(c.Fields)
 	}
 	return c.Root == len(c.Fields)

@@ -169,11 +169,12 @@ func TestTypesRefused(t *testing.T) {
 func TestForeignPartsOfTypes(t *testing.T) {
 	of := []api.Type{null()}
 	one := []api.Field{field("a", null())}
+	none := make([]api.Field, 1)
 	parts := map[string]func(*api.Type){
 		"name":   func(y *api.Type) { y.Name = "x" },
 		"fields": func(y *api.Type) { y.Fields = one },
 		"open":   func(y *api.Type) { y.Open = true },
-		"root":   func(y *api.Type) { y.Root = 1 },
+		"root":   func(y *api.Type) { y.Root, y.Fields = 1, none },
 		"of":     func(y *api.Type) { y.Of = of },
 		"limits": func(y *api.Type) { y.Limits = api.Limits{span(0, 0)} },
 	}
@@ -198,6 +199,61 @@ func TestForeignPartsOfTypes(t *testing.T) {
 			wantErr(t, fmt.Sprintf("kind %d with %s", k, part), notation.CheckType(y), api.ErrForm)
 		}
 	}
+}
+
+// P2.1: a Root that is not from 0 to the number of fields is ErrRange, of any kind of type, and also behind what a kind does not have.
+func TestRootOutOfRange(t *testing.T) {
+	for k := range api.TypeKinds {
+		for n := range 3 {
+			for _, root := range []int{-1 << 63, -1, n + 1, 1<<63 - 1} {
+				for _, open := range []bool{false, true} {
+					y := api.Type{Kind: k, Fields: make([]api.Field, n), Open: open, Root: root}
+					wantWithin(t, fmt.Sprintf("kind %d of %d fields with Root %d", k, n, root), y, api.ErrRange)
+				}
+			}
+		}
+	}
+	foreign := api.Type{Root: 2, Name: "x", Of: []api.Type{null()}, Limits: api.Limits{span(0, 0)}, Fields: []api.Field{{Name: "a", Group: 1}}}
+	wantErr(t, "Root before what NULL does not have", notation.CheckType(foreign), api.ErrRange)
+	foreign.Tags = make([]api.Tag, 4)
+	wantErr(t, "too many tags before Root", notation.CheckType(foreign), api.ErrLarge)
+	parameters := actual("T", null(), null())
+	for root, want := range []api.Errno{api.OK, api.ErrForm, api.ErrForm, api.ErrRange} {
+		parameters.Root = root
+		wantWithin(t, fmt.Sprintf("two parameters with Root %d", root), parameters, want)
+	}
+	enumerated := fields(api.TypeEnum, field("a", api.Type{Root: -1}))
+	wantErr(t, "an item comes before the type that it does not have", notation.CheckType(enumerated), api.ErrForm)
+}
+
+// wantWithin checks what is told of a type, by itself and within a type, a schema and a module.
+func wantWithin(t *testing.T, what string, y api.Type, want api.Errno) {
+	t.Helper()
+	wantErr(t, what, notation.CheckType(y), want)
+	wantErr(t, what+" in a list", notation.CheckType(listOf(y)), want)
+	wantErr(t, what+" as a field", notation.CheckType(fields(api.TypeRecord, field("x", null()), field("y", y))), want)
+	wantErr(t, what+" as a parameter", notation.CheckType(actual("T", y)), want)
+	_, e := notation.FormatType(y)
+	wantErr(t, what+" in a text", e, want)
+	for i := range 2 {
+		m := largeModule()
+		if i == 0 {
+			m.Items[itemT].Type = y
+		} else {
+			m.Items[itemC].Class[0].Fixed[0] = y
+		}
+		_, e = notation.CheckModule(m)
+		wantErr(t, what+" in a module", e, want)
+	}
+	if want == api.OK || want == api.ErrForm { // a schema has other types that are ErrForm
+		return
+	}
+	at, e := notation.CheckTypes(api.Schema{{Name: "A"}, {Name: "B", Type: listOf(y)}})
+	if at != 1 || e != want {
+		t.Errorf("%s in a schema: place %d, error %d, want %d", what, at, e, want)
+	}
+	_, e = notation.Resolved(nil, y)
+	wantErr(t, what+" resolved", e, want)
 }
 
 // P2.1: of several errors of one type the one that is listed first is told.
