@@ -93,26 +93,15 @@ func (c typeCheck) isOutOfRange() bool {
 			return true
 		}
 	}
-	return !c.isRootInRange()
+	return c.Root < 0 || c.Root > len(c.Fields)
 }
 
 func isTag(g api.Tag) bool {
 	return g.Class > api.ClassUniversal && g.Class < api.Classes && g.Number >= 0 && g.Number <= api.MaxTag && g.Way >= 0 && g.Way < api.TagWays
 }
 
-// isRootInRange is about every kind of type: one without a root may have fields, too.
-func (c typeCheck) isRootInRange() bool {
-	if c.Open || !c.has.root {
-		return c.Root >= 0 && c.Root <= len(c.Fields)
-	}
-	return c.Root == len(c.Fields)
-}
-
 func (c typeCheck) hasForeign() bool {
-	switch {
-	case !c.has.name && c.Name != "", !c.has.limits && len(c.Limits) > 0, !c.has.of && len(c.Of) > 0, !c.has.fields && len(c.Fields) > 0:
-		return true
-	case !c.has.root && (c.Open || c.Root != 0):
+	if !c.has.name && c.Name != "" || !c.has.limits && len(c.Limits) > 0 || !c.has.of && len(c.Of) > 0 || !c.has.fields && len(c.Fields) > 0 || c.hasForeignRoot() {
 		return true
 	}
 	for i, f := range c.Fields {
@@ -121,6 +110,14 @@ func (c typeCheck) hasForeign() bool {
 		}
 	}
 	return false
+}
+
+// hasForeignRoot returns whether a type of a kind without a root has one, or one without a marker has additions.
+func (c typeCheck) hasForeignRoot() bool {
+	if !c.has.root {
+		return c.Open || c.Root != 0
+	}
+	return !c.Open && c.Root != len(c.Fields)
 }
 
 // areExceeded returns whether a field has something that its kind of type does not give it.

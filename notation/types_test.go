@@ -83,7 +83,7 @@ func wrongTypes() map[string]struct {
 		"group before ...":  {opened(fields(api.TypeUnion, grouped(must, 1)), 1), api.ErrForm},
 		"root below":        {opened(fields(api.TypeRecord, must), -1), api.ErrRange},
 		"root above":        {opened(fields(api.TypeRecord, must), 2), api.ErrRange},
-		"root too small":    {api.Type{Kind: api.TypeSet, Fields: []api.Field{must}}, api.ErrRange},
+		"root too small":    {api.Type{Kind: api.TypeSet, Fields: []api.Field{must}}, api.ErrForm},
 		"root too great":    {api.Type{Kind: api.TypeEnum, Fields: []api.Field{item("a", 0)}, Root: 2}, api.ErrRange},
 		"default unasked":   {fields(api.TypeRecord, api.Field{Name: "a", Default: []api.Value{number(1)}}), api.ErrForm},
 		"optional default":  {fields(api.TypeSet, api.Field{Name: "a", Presence: api.FieldOptional, Default: []api.Value{number(1)}}), api.ErrForm},
@@ -224,6 +224,24 @@ func TestRootOutOfRange(t *testing.T) {
 	}
 	enumerated := fields(api.TypeEnum, field("a", api.Type{Root: -1}))
 	wantErr(t, "an item comes before the type that it does not have", notation.CheckType(enumerated), api.ErrForm)
+}
+
+// P2.1: additions without Open are ErrForm, behind what is ErrRange and before what is ErrShape or ErrName.
+func TestAdditionsWithoutOpen(t *testing.T) {
+	for _, k := range []int{api.TypeRecord, api.TypeSet, api.TypeUnion, api.TypeEnum} {
+		for root := range 3 {
+			y := api.Type{Kind: k, Fields: []api.Field{item("a", 0), item("b", 0), item("b", 0)}, Root: root}
+			wantWithin(t, fmt.Sprintf("kind %d, three fields, Root %d", k, root), y, api.ErrForm)
+			y.Tags = []api.Tag{context(-1, 0)}
+			wantWithin(t, fmt.Sprintf("kind %d, Root %d, a tag below 0", k, root), y, api.ErrRange)
+		}
+		y := fields(k, field("a", null()))
+		wantWithin(t, fmt.Sprintf("kind %d without additions", k), y, api.OK)
+		wantWithin(t, fmt.Sprintf("kind %d with Open", k), opened(fields(k, item("a", 0), item("?", 0)), 1), api.ErrName)
+	}
+	for _, k := range []int{api.TypeUnion, api.TypeEnum} {
+		wantWithin(t, fmt.Sprintf("kind %d without fields", k), kind(k), api.ErrShape)
+	}
 }
 
 // wantWithin checks what is told of a type, by itself and within a type, a schema and a module.
