@@ -248,7 +248,7 @@ func TestTextsThatEndGoOn(t *testing.T) {
 		length int
 	}{
 		"types":        {readType, "", "SEQUENCE OF CHOICE { } a T , ... [[ ]] NULL OPTIONAL DEFAULT [ ] 1 . & ( ) @", 5},
-		"enumerations": {readType, "ENUMERATED {", "a A ( ) - 1 , ... [[ }", 8},
+		"enumerations": {readType, "ENUMERATED {", "a A ( ) - 1 , ... [[ }", 14},
 		"constraints":  {readType, "IA5String (", `( ) 1 - .. MIN "a" "ab" SIZE FROM | ^ EXCEPT , ...`, 5},
 		"alphabets":    {readType, "BIT STRING (FROM (", `( ) 1 .. "a" "ab" '1'B | EXCEPT , ...`, 6},
 		"values":       {readPlain, "", `{ } a T mantissa base : , - 1 2 NULL "a"`, 5},

@@ -161,14 +161,68 @@ func TestTypesMisread(t *testing.T) {
 		{"NULL NULL", 5, api.ErrSyntax}, {"foo", 0, api.ErrSyntax}, {"5", 0, api.ErrSyntax}, {"STRING", 0, api.ErrSyntax}, {"BIT INTEGER", 4, api.ErrSyntax}, {"OCTET IDENTIFIER", 6, api.ErrSyntax}, {"CLASS {}", 0, api.ErrSyntax}, {`"NULL"`, 0, api.ErrSyntax}, {"T (1) (2)", 6, api.ErrSyntax}, {"T {NULL} {NULL}", 9, api.ErrSyntax},
 		{"[UNIVERSAL 5] NULL", 1, api.ErrSyntax}, {"[-5] NULL", 1, api.ErrSyntax}, {"[5 IMPLICIT NULL", 3, api.ErrSyntax}, {"[5] AUTOMATIC NULL", 4, api.ErrSyntax}, {"IMPLICIT NULL", 0, api.ErrSyntax}, {"[] NULL", 1, api.ErrSyntax}, {"[[5]] NULL", 0, api.ErrSyntax}, {"[5] IMPLICIT EXPLICIT NULL", 13, api.ErrSyntax},
 		{"SEQUENCE {A NULL}", 10, api.ErrSyntax}, {"SEQUENCE {a}", 11, api.ErrSyntax}, {"SEQUENCE {a NULL b NULL}", 17, api.ErrSyntax}, {"SEQUENCE {a NULL,}", 17, api.ErrSyntax}, {"SEQUENCE {,}", 10, api.ErrSyntax}, {"SEQUENCE {[[a NULL]]}", 10, api.ErrSyntax}, {"SEQUENCE {..., ...}", 15, api.ErrSyntax}, {"SEQUENCE {..., [[]]}", 17, api.ErrSyntax}, {"SEQUENCE {..., [[a NULL}", 23, api.ErrSyntax}, {"SEQUENCE {..., [[a NULL,]]}", 24, api.ErrSyntax}, {"SEQUENCE {..., [[[[a NULL]]]]}", 17, api.ErrSyntax}, {"SEQUENCE {..., a NULL]]}", 21, api.ErrSyntax}, {"SEQUENCE {..., [[...]]}", 17, api.ErrSyntax},
-		{"SEQUENCE {a NULL OPTIONAL DEFAULT 1}", 26, api.ErrSyntax}, {"SEQUENCE {a NULL DEFAULT}", 24, api.ErrSyntax}, {"SEQUENCE {a NULL DEFAULT 1 OPTIONAL}", 27, api.ErrSyntax}, {"SEQUENCE (SIZE (1)) {a NULL}", 20, api.ErrSyntax}, {"SEQUENCE SIZE (1) OF NULL", 9, api.ErrSyntax}, {"SEQUENCE OF NULL (1) (2)", 21, api.ErrSyntax}, {"CHOICE OF NULL", 7, api.ErrSyntax}, {"CHOICE (1) {a NULL}", 7, api.ErrSyntax}, {"SEQUENCE NULL", 9, api.ErrSyntax},
+		{"SEQUENCE {a NULL OPTIONAL DEFAULT 1}", 26, api.ErrSyntax}, {"SEQUENCE {a NULL DEFAULT}", 24, api.ErrSyntax}, {"SEQUENCE {a NULL DEFAULT 1 OPTIONAL}", 27, api.ErrSyntax}, {"SEQUENCE (SIZE (1)) {a NULL}", 20, api.ErrSyntax}, {"SEQUENCE SIZE (1) OF NULL", 9, api.ErrSyntax}, {"SEQUENCE OF INTEGER (1) (2)", 24, api.ErrSyntax}, {"SEQUENCE OF NULL (1)", 17, api.ErrSyntax}, {"CHOICE OF NULL", 7, api.ErrSyntax}, {"CHOICE (1) {a NULL}", 7, api.ErrSyntax}, {"SEQUENCE NULL", 9, api.ErrSyntax},
 		{"ENUMERATED {a}", 13, api.ErrSyntax}, {"ENUMERATED {A (0)}", 12, api.ErrSyntax}, {"ENUMERATED {a (b)}", 15, api.ErrSyntax}, {"ENUMERATED {a (0), ..., [[b (1)]]}", 24, api.ErrSyntax}, {"ENUMERATED {a (0), ..., ...}", 24, api.ErrSyntax}, {"ENUMERATED {a (--0)}", 20, api.ErrEnd}, {"ENUMERATED {a (- -0)}", 17, api.ErrSyntax}, {"ENUMERATED OF NULL", 11, api.ErrSyntax},
 		{"T {}", 3, api.ErrSyntax}, {"T {5}", 3, api.ErrSyntax}, {"T {NULL,}", 8, api.ErrSyntax}, {"T {a}", 3, api.ErrSyntax}, {"C.id ({S})", 2, api.ErrSyntax}, {"C.&id", 5, api.ErrEnd}, {"C.&id {S}", 6, api.ErrSyntax}, {"C.&id ({s})", 8, api.ErrSyntax}, {"C.&id ({S}{i})", 11, api.ErrSyntax}, {"C.&id ({S}{@I})", 12, api.ErrSyntax}, {"C.&id ({S}{@i}{@i})", 14, api.ErrSyntax}, {"C.&id (S)", 7, api.ErrSyntax}, {"c.&id ({S})", 0, api.ErrSyntax}, {"C.&INTEGER ({S})", 3, api.ErrSyntax},
 		{"INTEGER ()", 9, api.ErrSyntax}, {"INTEGER (MIN)", 12, api.ErrSyntax}, {"INTEGER (MAX | 1)", 13, api.ErrSyntax}, {"INTEGER (1...5)", 10, api.ErrSyntax}, {"INTEGER (-MIN..5)", 10, api.ErrSyntax}, {"INTEGER (1, 2)", 12, api.ErrSyntax}, {"INTEGER (1, ..., 2, ...)", 18, api.ErrSyntax}, {"INTEGER (...)", 9, api.ErrSyntax}, {"INTEGER (1 EXCEPT 2 EXCEPT 3)", 20, api.ErrSyntax}, {"INTEGER (EXCEPT 1)", 9, api.ErrSyntax}, {"INTEGER (1 UNION 2)", 11, api.ErrSyntax}, {"INTEGER ((1)", 12, api.ErrEnd}, {"INTEGER (1))", 11, api.ErrSyntax}, {"INTEGER (a)", 9, api.ErrSyntax}, {"INTEGER 5", 8, api.ErrSyntax}, {"INTEGER (SIZE 1)", 14, api.ErrSyntax}, {"INTEGER {a (1)}", 8, api.ErrSyntax},
-		{`INTEGER ("a")`, 9, api.ErrSyntax}, {`INTEGER ('1'B)`, 9, api.ErrSyntax}, {`IA5String ('1'B)`, 11, api.ErrSyntax}, {`T ('1'B)`, 3, api.ErrSyntax}, {`BIT STRING ("1")`, 12, api.ErrSyntax}, {`BIT STRING ('1'H)`, 12, api.ErrSyntax}, {`OCTET STRING ('1'B)`, 14, api.ErrSyntax}, {`NULL ("a")`, 6, api.ErrSyntax}, {`SET ("a") OF NULL`, 5, api.ErrSyntax},
+		{`INTEGER ("a")`, 9, api.ErrSyntax}, {`INTEGER ('1'B)`, 9, api.ErrSyntax}, {`IA5String ('1'B)`, 11, api.ErrSyntax}, {`T ('1'B)`, 3, api.ErrSyntax}, {`BIT STRING ("1")`, 12, api.ErrSyntax}, {`BIT STRING ('1'H)`, 12, api.ErrSyntax}, {`OCTET STRING ('1'B)`, 14, api.ErrSyntax}, {`NULL ("a")`, 5, api.ErrSyntax}, {`SET ("a") OF NULL`, 5, api.ErrSyntax},
 		{`IA5String ("a".."c")`, 14, api.ErrSyntax}, {`IA5String (FROM (1))`, 17, api.ErrSyntax}, {`IA5String (FROM (MIN.."c"))`, 17, api.ErrSyntax}, {`IA5String (FROM ("a".."bc"))`, 22, api.ErrSyntax}, {`IA5String (FROM ("ab".."c"))`, 21, api.ErrSyntax}, {`IA5String (FROM ("".."c"))`, 19, api.ErrSyntax}, {`IA5String (FROM ("a"..1))`, 22, api.ErrSyntax}, {`INTEGER (FROM ("a"))`, 18, api.ErrSyntax}, {`INTEGER (FROM ("ab"))`, 15, api.ErrSyntax}, {`BIT STRING (FROM ("a" | '1'B))`, 22, api.ErrSyntax}, {`IA5String (FROM ("a") | "b".."c")`, 27, api.ErrSyntax}, {`IA5String (SIZE ("a".."c"))`, 20, api.ErrSyntax},
 		{"SEQUENCE {a # NULL}", 12, api.ErrSyntax}, {"[007] NULL", 1, api.ErrSyntax}, {"[1152921504606846977] NULL", 1, api.ErrRange}, {"/* NULL", 0, api.ErrOpen}, {`IA5String ("a)`, 11, api.ErrOpen}, {"a # 1", 2, api.ErrSyntax}, {"NULL\r", 4, api.ErrForm}, {strings.Repeat("a", api.MaxName+1), 0, api.ErrName}, {strings.Repeat(" ", api.MaxText+1), 0, api.ErrLarge}, {strings.Repeat("( ", api.MaxTokens+1), 0, api.ErrLarge},
 	})
+}
+
+// A framing is how a type stands within a longer text.
+type framing struct {
+	read          reading
+	before, after string
+}
+
+// framings are types by themselves, within types, and in each item of a module that has one.
+func framings() []framing {
+	const head = "M DEFINITIONS EXPLICIT TAGS ::= BEGIN EXPORTS; "
+	return []framing{
+		{readType, "", ""}, {readType, "[0] ", ""}, {readType, "SEQUENCE OF ", ""}, {readType, "SET (SIZE (1)) OF ", ""}, {readType, "T {NULL, ", "}"},
+		{readType, "SEQUENCE {x ", ", y NULL}"}, {readType, "SET {..., [[x ", " OPTIONAL]]}"}, {readType, "CHOICE {x ", "}"},
+		{readModule, head + "T ::= ", " END"}, {readModule, head + "T {A} ::= ", " END"}, {readModule, head + "v ", " ::= 5 END"}, {readModule, head + "C ::= CLASS {&x ", " UNIQUE} END"}, {readModule, head + "o C ::= {&X ", ", &y 5} END"},
+	}
+}
+
+// wantFramed checks what is told of texts of types wherever types stand: their places are behind what stands before.
+func wantFramed(t *testing.T, l []misread) {
+	t.Helper()
+	for _, g := range framings() {
+		var within []misread
+		for _, x := range l {
+			at := len(g.before) + x.at
+			switch x.want {
+			case api.OK:
+				within = append(within, misread{g.before + x.text + g.after, len(g.before + x.text + g.after), api.OK})
+			case api.ErrEnd:
+				within = append(within, misread{g.before + x.text, at, x.want})
+			default:
+				within = append(within, misread{g.before + x.text, at, x.want}, misread{g.before + x.text + g.after, at, x.want})
+			}
+		}
+		wantMisread(t, g.read, within)
+	}
+}
+
+// P2.5: behind a type that has no constraint none can stand.
+func TestNoConstraintRead(t *testing.T) {
+	for _, s := range []string{
+		"NULL", "BOOLEAN", "REAL", "OBJECT IDENTIFIER", "ENUMERATED {a (0)}", "ENUMERATED {a (0), ...}", "SEQUENCE {}", "SEQUENCE {a INTEGER (1)}", "SET {...}", "SET {a NULL}", "CHOICE {a NULL}", "C.&id ({S})", "C.&Type ({S} {@i})",
+	} {
+		at := len(s) + 1
+		wantFramed(t, []misread{
+			{s, 0, api.OK}, {s + " (", at, api.ErrSyntax}, {s + "(", at - 1, api.ErrSyntax}, {s + " ()", at, api.ErrSyntax}, {s + " (1)", at, api.ErrSyntax}, {s + " (SIZE (1))", at, api.ErrSyntax}, {s + ` (FROM ("a"))`, at, api.ErrSyntax}, {s + " (1, ...)", at, api.ErrSyntax}, {s + " ({S})", at, api.ErrSyntax},
+		})
+	}
+	for _, s := range []string{"INTEGER", "BIT STRING", "OCTET STRING", "IA5String", "T", "T {NULL}"} {
+		wantFramed(t, []misread{{s + " (5)", 0, api.OK}, {s + " (", len(s) + 2, api.ErrEnd}, {s + " (5) (", len(s) + 5, api.ErrSyntax}})
+	}
+	for _, s := range []string{"SEQUENCE", "SET"} {
+		wantFramed(t, []misread{{s + " (5) OF NULL", 0, api.OK}, {s + " (", len(s) + 2, api.ErrEnd}, {s + " (5) OF NULL (", len(s) + 13, api.ErrSyntax}, {s + " OF NULL (5)", len(s) + 9, api.ErrSyntax}})
+	}
 }
 
 // P2.5: what is read, but not right, has the error of the type at the place 0.
@@ -177,7 +231,7 @@ func TestTypesReadAndRefused(t *testing.T) {
 	wantMisread(t, readType, []misread{
 		{"ENUMERATED {}", 0, api.ErrShape}, {"ENUMERATED {...}", 0, api.ErrShape}, {"ENUMERATED {..., a (0)}", 0, api.ErrShape}, {"CHOICE {}", 0, api.ErrShape}, {"CHOICE {...}", 0, api.ErrShape}, {"CHOICE {..., a NULL}", 0, api.ErrShape},
 		{"[0] [1] [2] [3] NULL", 0, api.ErrLarge}, {"[100001] NULL", 0, api.ErrRange}, {"SEQUENCE {" + many + "b NULL}", 0, api.ErrLarge}, {"SEQUENCE {a NULL, a NULL}", 0, api.ErrDouble}, {"ENUMERATED {a (0), b (-0)}", 0, api.ErrDouble}, {"T {A, B, C, D, E}", 0, api.ErrLarge},
-		{"NULL (5)", 0, api.ErrForm}, {"SEQUENCE {} (SIZE (1))", 0, api.ErrForm}, {"C.&id ({S}) (1)", 0, api.ErrForm}, {"CHOICE {a NULL OPTIONAL}", 0, api.ErrForm}, {"CHOICE {a NULL DEFAULT NULL}", 0, api.ErrForm},
+		{"CHOICE {a NULL OPTIONAL}", 0, api.ErrForm}, {"CHOICE {a NULL DEFAULT NULL}", 0, api.ErrForm},
 		{"INTEGER (" + strings.Repeat("1 | ", 10) + "1)", 0, api.ErrShape}, {"SEQUENCE {a NULL DEFAULT {mantissa 2, base 2, exponent 0}}", 0, api.ErrRange}, {"SEQUENCE {a NULL DEFAULT {3 4}}", 0, api.ErrRange}, {"SEQUENCE {a NULL DEFAULT {b 1, b 2}}", 0, api.ErrDouble},
 		{strings.Repeat("SEQUENCE OF ", 9) + "NULL", 0, api.ErrLarge}, {strings.Repeat("SEQUENCE OF ", 19) + "NULL", 0, api.ErrLarge}, {"SEQUENCE {a T DEFAULT " + strings.Repeat("{", 9) + strings.Repeat("}", 9) + "}", 0, api.ErrLarge},
 	})

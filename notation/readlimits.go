@@ -10,9 +10,9 @@ type limitReader struct {
 	nodes    api.Limits
 }
 
-// constraint reads the constraint of a type, if there is one.
+// constraint reads the constraint of a type, if its kind may have one and there is one.
 func (r *reader) constraint(kind int) api.Limits {
-	if !r.takes("(") {
+	if !typeParts[kind].limits || !r.takes("(") {
 		return nil
 	}
 	l := &limitReader{reader: r, kind: kind}
