@@ -225,13 +225,27 @@ func TestNoConstraintRead(t *testing.T) {
 	}
 }
 
+// P2.5: the fields of a union are always there, so that nothing says of them when they are; those within them have their own words.
+func TestNoPresenceRead(t *testing.T) {
+	for _, s := range []string{
+		"CHOICE {a NULL", "CHOICE {a INTEGER (1..5)", "CHOICE {a NULL, b [0] T {U}", "CHOICE {..., a NULL", "CHOICE {a NULL, ..., b NULL", "CHOICE {a NULL, ..., [[b NULL", "CHOICE {a NULL, ..., [[b NULL, c SEQUENCE OF NULL", "CHOICE {a CHOICE {b NULL}", "CHOICE {a CHOICE {b NULL", "SEQUENCE {a CHOICE {b NULL", "CHOICE {a SEQUENCE {b NULL OPTIONAL}",
+	} {
+		at := len(s) + 1
+		wantFramed(t, []misread{
+			{s, at - 1, api.ErrEnd}, {s + " OPTIONAL", at, api.ErrSyntax}, {s + " OPTIONAL}", at, api.ErrSyntax}, {s + " OPTIONAL, z NULL}", at, api.ErrSyntax}, {s + " DEFAULT", at, api.ErrSyntax}, {s + " DEFAULT 5}", at, api.ErrSyntax}, {s + " DEFAULT NULL]]}", at, api.ErrSyntax},
+		})
+	}
+	wantFramed(t, []misread{
+		{"CHOICE {a SEQUENCE {b NULL OPTIONAL, c INTEGER DEFAULT 5}}", 0, api.OK}, {"SEQUENCE {a CHOICE {b NULL} OPTIONAL, c CHOICE {b NULL} DEFAULT b: NULL}", 0, api.OK}, {"SET {a NULL OPTIONAL, ..., [[b NULL DEFAULT NULL]]}", 0, api.OK},
+	})
+}
+
 // P2.5: what is read, but not right, has the error of the type at the place 0.
 func TestTypesReadAndRefused(t *testing.T) {
 	many := strings.Repeat("a NULL, ", 16)
 	wantMisread(t, readType, []misread{
 		{"ENUMERATED {}", 0, api.ErrShape}, {"ENUMERATED {...}", 0, api.ErrShape}, {"ENUMERATED {..., a (0)}", 0, api.ErrShape}, {"CHOICE {}", 0, api.ErrShape}, {"CHOICE {...}", 0, api.ErrShape}, {"CHOICE {..., a NULL}", 0, api.ErrShape},
 		{"[0] [1] [2] [3] NULL", 0, api.ErrLarge}, {"[100001] NULL", 0, api.ErrRange}, {"SEQUENCE {" + many + "b NULL}", 0, api.ErrLarge}, {"SEQUENCE {a NULL, a NULL}", 0, api.ErrDouble}, {"ENUMERATED {a (0), b (-0)}", 0, api.ErrDouble}, {"T {A, B, C, D, E}", 0, api.ErrLarge},
-		{"CHOICE {a NULL OPTIONAL}", 0, api.ErrForm}, {"CHOICE {a NULL DEFAULT NULL}", 0, api.ErrForm},
 		{"INTEGER (" + strings.Repeat("1 | ", 10) + "1)", 0, api.ErrShape}, {"SEQUENCE {a NULL DEFAULT {mantissa 2, base 2, exponent 0}}", 0, api.ErrRange}, {"SEQUENCE {a NULL DEFAULT {3 4}}", 0, api.ErrRange}, {"SEQUENCE {a NULL DEFAULT {b 1, b 2}}", 0, api.ErrDouble},
 		{strings.Repeat("SEQUENCE OF ", 9) + "NULL", 0, api.ErrLarge}, {strings.Repeat("SEQUENCE OF ", 19) + "NULL", 0, api.ErrLarge}, {"SEQUENCE {a T DEFAULT " + strings.Repeat("{", 9) + strings.Repeat("}", 9) + "}", 0, api.ErrLarge},
 	})

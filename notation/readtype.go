@@ -64,7 +64,7 @@ func (r *reader) untagged() api.Type {
 		{api.TypeEnum, r.enumeration},
 		{api.TypeRecord, r.record},
 		{api.TypeSet, r.record},
-		{api.TypeUnion, r.fields},
+		{api.TypeUnion, r.choice},
 	} {
 		if b.kind == t.Kind {
 			b.read(&t)
@@ -105,6 +105,7 @@ func (r *reader) record(t *api.Type) {
 }
 
 func (r *reader) fields(t *api.Type)      { r.members(t, r.field) }
+func (r *reader) choice(t *api.Type)      { r.members(t, r.alternative) }
 func (r *reader) enumeration(t *api.Type) { r.members(t, r.item) }
 
 // members reads the fields of a type, with the marker and the groups.
@@ -145,10 +146,17 @@ func (r *reader) item() api.Field {
 	return f
 }
 
-func (r *reader) field() api.Field {
+// alternative reads a field of a union, which is always there.
+func (r *reader) alternative() api.Field {
 	var f api.Field
 	f.Name = r.smallName()
 	f.Type = r.typ()
+	return f
+}
+
+// field reads a field of a record or a set.
+func (r *reader) field() api.Field {
+	f := r.alternative()
 	switch {
 	case r.takes("OPTIONAL"):
 		f.Presence = api.FieldOptional
