@@ -67,16 +67,13 @@ func TestTypesRead(t *testing.T) {
 	}
 }
 
-// P2.5: constraints that limits (chapter 4) will refuse, and that have no text, are read as their tokens say.
+// P2.5: constraints that limits (chapter 4) will refuse are read as their tokens say.
 func TestConstraintsRead(t *testing.T) {
 	integer, ia5 := kind(api.TypeInt), stringType(api.Ia5)
 	for s, want := range map[string]api.Type{
-		"INTEGER ((1, ...) | 2)":            limited(integer, span(1, 1), node(api.LimitMarker, 0), span(2, 2), node(api.LimitUnion, 1, 2)),
-		"INTEGER ((1, ..., 2), ..., 3)":     limited(integer, span(1, 1), span(2, 2), node(api.LimitMarker, 0, 1), span(3, 3), node(api.LimitMarker, 2, 3)),
-		"IA5String (SIZE (1, ...))":         limited(ia5, span(1, 1), node(api.LimitMarker, 0), node(api.LimitSize, 1)),
-		"IA5String (SIZE (SIZE (1)))":       limited(ia5, span(1, 1), node(api.LimitSize, 0), node(api.LimitSize, 1)),
-		`IA5String (SIZE ("a"))`:            limited(ia5, text("a"), node(api.LimitSize, 0)),
-		`IA5String (FROM (FROM ("a")) | 1)`: limited(ia5, text("a"), node(api.LimitFrom, 0), node(api.LimitFrom, 1), span(1, 1), node(api.LimitUnion, 2, 3)),
+		"INTEGER ((1, ...) | 2)":        limited(integer, span(1, 1), node(api.LimitMarker, 0), span(2, 2), node(api.LimitUnion, 1, 2)),
+		"INTEGER ((1, ..., 2), ..., 3)": limited(integer, span(1, 1), span(2, 2), node(api.LimitMarker, 0, 1), span(3, 3), node(api.LimitMarker, 2, 3)),
+		"IA5String (SIZE (1, ...))":     limited(ia5, span(1, 1), node(api.LimitMarker, 0), node(api.LimitSize, 1)),
 	} {
 		if y := typeOf(t, s); !alike(y, want) {
 			t.Errorf("%q: %+v, want %+v", s, y, want)
@@ -166,7 +163,7 @@ func TestTypesMisread(t *testing.T) {
 		{"T {}", 3, api.ErrSyntax}, {"T {5}", 3, api.ErrSyntax}, {"T {NULL,}", 8, api.ErrSyntax}, {"T {a}", 3, api.ErrSyntax}, {"C.id ({S})", 2, api.ErrSyntax}, {"C.&id", 5, api.ErrEnd}, {"C.&id {S}", 6, api.ErrSyntax}, {"C.&id ({s})", 8, api.ErrSyntax}, {"C.&id ({S}{i})", 11, api.ErrSyntax}, {"C.&id ({S}{@I})", 12, api.ErrSyntax}, {"C.&id ({S}{@i}{@i})", 14, api.ErrSyntax}, {"C.&id (S)", 7, api.ErrSyntax}, {"c.&id ({S})", 0, api.ErrSyntax}, {"C.&INTEGER ({S})", 3, api.ErrSyntax},
 		{"INTEGER ()", 9, api.ErrSyntax}, {"INTEGER (MIN)", 12, api.ErrSyntax}, {"INTEGER (MAX | 1)", 13, api.ErrSyntax}, {"INTEGER (1...5)", 10, api.ErrSyntax}, {"INTEGER (-MIN..5)", 10, api.ErrSyntax}, {"INTEGER (1, 2)", 12, api.ErrSyntax}, {"INTEGER (1, ..., 2, ...)", 18, api.ErrSyntax}, {"INTEGER (...)", 9, api.ErrSyntax}, {"INTEGER (1 EXCEPT 2 EXCEPT 3)", 20, api.ErrSyntax}, {"INTEGER (EXCEPT 1)", 9, api.ErrSyntax}, {"INTEGER (1 UNION 2)", 11, api.ErrSyntax}, {"INTEGER ((1)", 12, api.ErrEnd}, {"INTEGER (1))", 11, api.ErrSyntax}, {"INTEGER (a)", 9, api.ErrSyntax}, {"INTEGER 5", 8, api.ErrSyntax}, {"INTEGER (SIZE 1)", 14, api.ErrSyntax}, {"INTEGER {a (1)}", 8, api.ErrSyntax},
 		{`INTEGER ("a")`, 9, api.ErrSyntax}, {`INTEGER ('1'B)`, 9, api.ErrSyntax}, {`IA5String ('1'B)`, 11, api.ErrSyntax}, {`T ('1'B)`, 3, api.ErrSyntax}, {`BIT STRING ("1")`, 12, api.ErrSyntax}, {`BIT STRING ('1'H)`, 12, api.ErrSyntax}, {`OCTET STRING ('1'B)`, 14, api.ErrSyntax}, {`NULL ("a")`, 5, api.ErrSyntax}, {`SET ("a") OF NULL`, 5, api.ErrSyntax},
-		{`IA5String ("a".."c")`, 14, api.ErrSyntax}, {`IA5String (FROM (1))`, 17, api.ErrSyntax}, {`IA5String (FROM (MIN.."c"))`, 17, api.ErrSyntax}, {`IA5String (FROM ("a".."bc"))`, 22, api.ErrSyntax}, {`IA5String (FROM ("ab".."c"))`, 21, api.ErrSyntax}, {`IA5String (FROM ("".."c"))`, 19, api.ErrSyntax}, {`IA5String (FROM ("a"..1))`, 22, api.ErrSyntax}, {`INTEGER (FROM ("a"))`, 18, api.ErrSyntax}, {`INTEGER (FROM ("ab"))`, 15, api.ErrSyntax}, {`BIT STRING (FROM ("a" | '1'B))`, 22, api.ErrSyntax}, {`IA5String (FROM ("a") | "b".."c")`, 27, api.ErrSyntax}, {`IA5String (SIZE ("a".."c"))`, 20, api.ErrSyntax},
+		{`IA5String ("a".."c")`, 14, api.ErrSyntax}, {`IA5String (FROM (1))`, 17, api.ErrSyntax}, {`IA5String (FROM (MIN.."c"))`, 17, api.ErrSyntax}, {`IA5String (FROM ("a".."bc"))`, 22, api.ErrSyntax}, {`IA5String (FROM ("ab".."c"))`, 21, api.ErrSyntax}, {`IA5String (FROM ("".."c"))`, 19, api.ErrSyntax}, {`IA5String (FROM ("a"..1))`, 22, api.ErrSyntax}, {`INTEGER (FROM ("a"))`, 18, api.ErrSyntax}, {`INTEGER (FROM ("ab"))`, 15, api.ErrSyntax}, {`BIT STRING (FROM ("a" | '1'B))`, 22, api.ErrSyntax}, {`IA5String (FROM ("a") | "b".."c")`, 27, api.ErrSyntax}, {`IA5String (SIZE ("a".."c"))`, 17, api.ErrSyntax},
 		{"SEQUENCE {a # NULL}", 12, api.ErrSyntax}, {"[007] NULL", 1, api.ErrSyntax}, {"[1152921504606846977] NULL", 1, api.ErrRange}, {"/* NULL", 0, api.ErrOpen}, {`IA5String ("a)`, 11, api.ErrOpen}, {"a # 1", 2, api.ErrSyntax}, {"NULL\r", 4, api.ErrForm}, {strings.Repeat("a", api.MaxName+1), 0, api.ErrName}, {strings.Repeat(" ", api.MaxText+1), 0, api.ErrLarge}, {strings.Repeat("( ", api.MaxTokens+1), 0, api.ErrLarge},
 	})
 }
@@ -240,6 +237,28 @@ func TestNoPresenceRead(t *testing.T) {
 	})
 }
 
+// P2.5, P2.4: within SIZE only numbers can stand, within FROM only characters, until it is closed.
+func TestWithinSizeAndFromRead(t *testing.T) {
+	inSize, inFrom := []string{"SIZE", "FROM", `"a"`, `""`, "'01'B", "'0A'H"}, []string{"SIZE", "FROM", "1", "-", "MIN", "MAX"}
+	for _, of := range []string{"INTEGER", "BIT STRING", "OCTET STRING", "IA5String", "T", "T {NULL}"} {
+		for _, x := range []struct {
+			before string
+			wrong  []string
+		}{
+			{"SIZE (", inSize}, {"SIZE ((", inSize}, {"SIZE (1 | ", inSize}, {"SIZE (MIN..1 ^ ((2 | ", inSize}, {"SIZE (1 EXCEPT (", inSize}, {"5 | SIZE (", inSize}, {`FROM ("a".."b") ^ SIZE (`, inSize}, {"5, ..., SIZE (", inSize},
+			{"FROM (", inFrom}, {"FROM ((", inFrom}, {`FROM ("a".."b" | `, inFrom}, {`FROM ("a".."b" ^ (`, inFrom}, {`FROM (("a".."b") EXCEPT (`, inFrom}, {"SIZE (1) ^ FROM (", inFrom}, {"5, ..., FROM (", inFrom}, {`FROM ("a"..`, inFrom},
+		} {
+			s := of + " (" + x.before
+			wantFramed(t, []misread{{s, len(s), api.ErrEnd}})
+			for _, token := range x.wrong {
+				wantFramed(t, []misread{{s + token, len(s), api.ErrSyntax}, {s + token + " (1)))", len(s), api.ErrSyntax}})
+			}
+		}
+		wantFramed(t, []misread{{of + ` ((SIZE ((1) | 2)) ^ FROM ("a".."b" | ("c".."d")) ^ (SIZE (3) EXCEPT FROM ("e".."f")) | 5, ..., SIZE (1))`, 0, api.OK}})
+	}
+	wantFramed(t, []misread{{`IA5String (SIZE (1) | "a" | FROM ("a" | ("b".."c")) | "a")`, 0, api.OK}, {`BIT STRING (FROM ('01'B | "a".."b") | '01'B | SIZE (1))`, 0, api.OK}, {`OCTET STRING (SIZE (1) | '01'H | FROM ('0A'H))`, 0, api.OK}})
+}
+
 // P2.5: what is read, but not right, has the error of the type at the place 0.
 func TestTypesReadAndRefused(t *testing.T) {
 	many := strings.Repeat("a NULL, ", 16)
@@ -288,10 +307,10 @@ func TestDeepTexts(t *testing.T) {
 	})
 	// The type is 1 deep, what stands in its first parentheses 2.
 	open, closed := "T "+strings.Repeat("(", 19), strings.Repeat(")", 19)
-	sizes := "T (" + strings.Repeat("SIZE (", 18)
+	sizes := "T " + strings.Repeat("(", 9) + "SIZE " + strings.Repeat("(", 10)
 	wantMisread(t, readType, []misread{
 		{open + "1" + closed, 41, api.OK}, {open + "(1)" + closed, 22, api.ErrLarge}, {open + "()" + closed, 22, api.ErrLarge}, {open + "(", 22, api.ErrEnd},
-		{sizes + "1" + closed, len(sizes) + 20, api.OK}, {sizes + "SIZE (1)" + closed, len(sizes) + 6, api.ErrLarge},
+		{sizes + "1" + closed, len(sizes) + 20, api.OK}, {sizes + "(1)" + closed, len(sizes) + 1, api.ErrLarge}, {open + "SIZE (1)" + closed, 27, api.ErrLarge}, {open + `FROM ("a")` + closed, 27, api.ErrLarge},
 	})
 	braces := strings.Repeat("{", 20)
 	wantMisread(t, readType, []misread{

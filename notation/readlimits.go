@@ -5,9 +5,9 @@ import "examiner/api"
 // A limitReader reads the constraint of a type, each node behind its operands. What reads a part of it returns the index of its root.
 type limitReader struct {
 	*reader
-	kind     int // of the type
-	isInFrom bool
-	nodes    api.Limits
+	kind   int // of the type
+	within int // LimitSize, LimitFrom, or neither (None)
+	nodes  api.Limits
 }
 
 // constraint reads the constraint of a type, if its kind may have one and there is one.
@@ -15,7 +15,7 @@ func (r *reader) constraint(kind int) api.Limits {
 	if !typeParts[kind].limits || !r.takes("(") {
 		return nil
 	}
-	l := &limitReader{reader: r, kind: kind}
+	l := &limitReader{reader: r, kind: kind, within: api.None}
 	l.whole()
 	r.must(")")
 	return l.nodes
@@ -68,31 +68,33 @@ func (l *limitReader) without() int {
 	return l.add(api.Limit{Kind: api.LimitWithout, Args: []int{first, second}})
 }
 
+// operand reads what has no operator of its own, but parentheses. Within SIZE only numbers can stand, within FROM only characters.
 func (l *limitReader) operand() int {
 	switch {
 	case l.takes("("):
 		root := l.whole()
 		l.must(")")
 		return root
-	case l.takes("SIZE"):
-		return l.enclosed(api.LimitSize, l.isInFrom)
-	case l.takes("FROM"):
-		return l.enclosed(api.LimitFrom, true)
-	case l.isInFrom && l.seesKind(api.TokenChars):
+	case l.within == api.LimitSize:
+		return l.span()
+	case l.within == api.LimitFrom:
 		return l.characters()
-	case !l.isInFrom && (l.seesNumber() || l.sees("MIN", "MAX")):
+	case l.takes("SIZE"):
+		return l.enclosed(api.LimitSize)
+	case l.takes("FROM"):
+		return l.enclosed(api.LimitFrom)
+	case l.seesNumber() || l.sees("MIN", "MAX"):
 		return l.span()
 	}
 	return l.literal()
 }
 
 // enclosed reads the operand of LimitSize or LimitFrom.
-func (l *limitReader) enclosed(kind int, inFrom bool) int {
+func (l *limitReader) enclosed(kind int) int {
 	l.must("(")
-	outside := l.isInFrom
-	l.isInFrom = inFrom
+	l.within = kind
 	operand := l.whole()
-	l.isInFrom = outside
+	l.within = api.None
 	l.must(")")
 	return l.add(api.Limit{Kind: kind, Args: []int{operand}})
 }
@@ -123,8 +125,7 @@ func (l *limitReader) end() int {
 
 // characters reads a range of characters, or, of a type whose strings are written so, a string.
 func (l *limitReader) characters() int {
-	text := charsOf(l.tokenAt(0).Text)
-	if len(text) != 1 || l.tokenAt(1).Text != ".." && l.isTextKind(api.TokenChars) {
+	if !l.seesCharacter() || l.tokenAt(1).Text != ".." && l.isTextKind(api.TokenChars) {
 		return l.literal()
 	}
 	n := api.Limit{Kind: api.LimitRange}
@@ -134,9 +135,13 @@ func (l *limitReader) characters() int {
 	return l.add(n)
 }
 
-// character reads a string of one character.
+// seesCharacter returns whether the next token is a string of one character.
+func (l *limitReader) seesCharacter() bool {
+	return l.seesKind(api.TokenChars) && len(charsOf(l.tokenAt(0).Text)) == 1
+}
+
 func (l *limitReader) character() int {
-	if !l.seesKind(api.TokenChars) || len(charsOf(l.tokenAt(0).Text)) != 1 {
+	if !l.seesCharacter() {
 		l.wrong()
 	}
 	return int(charsOf(l.token(api.TokenChars))[0])
