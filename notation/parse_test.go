@@ -13,25 +13,29 @@ import (
 type reading func(string) (int, api.Errno)
 
 func readType(s string) (int, api.Errno) {
-	y, n, e := notation.ParseType(s)
-	if e != api.OK && !alike(y, api.Type{}) {
-		panic("a type beside an error: " + s)
-	}
-	return n, e
+	return readOf(s, notation.ParseType, notation.FormatType)
 }
 
 func readPlain(s string) (int, api.Errno) {
-	v, n, e := notation.ParsePlain(s)
-	if e != api.OK && !alike(v, api.Value{}) {
-		panic("a value beside an error: " + s)
-	}
-	return n, e
+	return readOf(s, notation.ParsePlain, notation.FormatPlain)
 }
 
 func readModule(s string) (int, api.Errno) {
-	m, n, e := notation.ParseModule(s)
-	if e != api.OK && !alike(m, api.AsnModule{}) {
-		panic("a module beside an error: " + s)
+	return readOf(s, notation.ParseModule, notation.FormatModule)
+}
+
+// readOf reads a text. What is read has a text, and beside an error there is nothing.
+func readOf[T any](s string, parse func(string) (T, int, api.Errno), format func(T) (string, api.Errno)) (int, api.Errno) {
+	x, n, e := parse(s)
+	var none T
+	if e != api.OK {
+		if !alike(x, none) {
+			panic("something beside an error: " + s)
+		}
+		return n, e
+	}
+	if _, e := format(x); e != api.OK && e != api.ErrLarge {
+		panic("what is read has no text: " + s)
 	}
 	return n, e
 }
@@ -63,20 +67,6 @@ func TestTypesRead(t *testing.T) {
 		y, n, e := notation.ParseType(s)
 		if !alike(y, typeOf(t, same)) || n != len(s) || e != api.OK {
 			t.Errorf("%q: %+v, %d, %d, want that of %q", s, y, n, e, same)
-		}
-	}
-}
-
-// P2.5: constraints that limits (chapter 4) will refuse are read as their tokens say.
-func TestConstraintsRead(t *testing.T) {
-	integer, ia5 := kind(api.TypeInt), stringType(api.Ia5)
-	for s, want := range map[string]api.Type{
-		"INTEGER ((1, ...) | 2)":        limited(integer, span(1, 1), node(api.LimitMarker, 0), span(2, 2), node(api.LimitUnion, 1, 2)),
-		"INTEGER ((1, ..., 2), ..., 3)": limited(integer, span(1, 1), span(2, 2), node(api.LimitMarker, 0, 1), span(3, 3), node(api.LimitMarker, 2, 3)),
-		"IA5String (SIZE (1, ...))":     limited(ia5, span(1, 1), node(api.LimitMarker, 0), node(api.LimitSize, 1)),
-	} {
-		if y := typeOf(t, s); !alike(y, want) {
-			t.Errorf("%q: %+v, want %+v", s, y, want)
 		}
 	}
 }
@@ -257,6 +247,23 @@ func TestWithinSizeAndFromRead(t *testing.T) {
 		wantFramed(t, []misread{{of + ` ((SIZE ((1) | 2)) ^ FROM ("a".."b" | ("c".."d")) ^ (SIZE (3) EXCEPT FROM ("e".."f")) | 5, ..., SIZE (1))`, 0, api.OK}})
 	}
 	wantFramed(t, []misread{{`IA5String (SIZE (1) | "a" | FROM ("a" | ("b".."c")) | "a")`, 0, api.OK}, {`BIT STRING (FROM ('01'B | "a".."b") | '01'B | SIZE (1))`, 0, api.OK}, {`OCTET STRING (SIZE (1) | '01'H | FROM ('0A'H))`, 0, api.OK}})
+}
+
+// P2.5, P2.4: a marker stands in the outermost parentheses alone, behind all operands.
+func TestMarkerWithinRead(t *testing.T) {
+	for _, of := range []string{"INTEGER", "BIT STRING", "IA5String", "T"} {
+		for _, before := range []string{
+			"(1", "((1", "(1 | 2", "(1..2 ^ (3 EXCEPT 4)", "9 | (0", "9 ^ (0", "9 EXCEPT (0", "(1 | 2) ^ (3", "SIZE (0", "SIZE ((0", "SIZE (0 | (1..2", "9 | SIZE (0", `FROM ("a".."b"`, `FROM (("a".."b"`, `FROM ("a".."b" | ("c".."d"`, "1, ..., (2", "1, ..., SIZE (2", "1, ..., 2 | (3 | 4",
+		} {
+			s := of + " (" + before
+			wantFramed(t, []misread{{s, len(s), api.ErrEnd}, {s + ",", len(s), api.ErrSyntax}, {s + ", ...))", len(s), api.ErrSyntax}, {s + ", ...) | 9)", len(s), api.ErrSyntax}, {s + ", ..., 5)))", len(s), api.ErrSyntax}, {s + " ...", len(s) + 1, api.ErrSyntax}})
+		}
+		wantFramed(t, []misread{
+			{of + " ((1), ...)", 0, api.OK}, {of + " (SIZE (1), ..., (SIZE (2)))", 0, api.OK}, {of + ` ((1 | 2) ^ 3, ..., FROM ("a".."b") | (4))`, 0, api.OK},
+			{of + " ((1),", len(of) + 6, api.ErrEnd}, {of + " ((1), ..., (2),", len(of) + 15, api.ErrSyntax}, {of + " ((1), ... | 2)", len(of) + 11, api.ErrSyntax},
+		})
+	}
+	wantFramed(t, []misread{{"SEQUENCE (SIZE (1), ...) OF INTEGER ((2), ...)", 0, api.OK}, {"SEQUENCE (SIZE (1, ...)) OF NULL", 17, api.ErrSyntax}, {"SET ((SIZE (1), ...)) OF NULL", 14, api.ErrSyntax}})
 }
 
 // P2.5: what is read, but not right, has the error of the type at the place 0.

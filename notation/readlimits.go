@@ -12,12 +12,11 @@ type limitReader struct {
 
 // constraint reads the constraint of a type, if its kind may have one and there is one.
 func (r *reader) constraint(kind int) api.Limits {
-	if !typeParts[kind].limits || !r.takes("(") {
+	if !typeParts[kind].limits || !r.sees("(") {
 		return nil
 	}
 	l := &limitReader{reader: r, kind: kind, within: api.None}
-	l.whole()
-	r.must(")")
+	l.parenthesized(l.whole)
 	return l.nodes
 }
 
@@ -27,10 +26,18 @@ func (l *limitReader) add(n api.Limit) int {
 	return len(l.nodes) - 1
 }
 
-// whole reads what stands in parentheses.
-func (l *limitReader) whole() int {
+// parenthesized reads parentheses, and what stands in them.
+func (l *limitReader) parenthesized(read func() int) int {
+	l.must("(")
 	l.enter()
-	defer l.leave()
+	root := read()
+	l.leave()
+	l.must(")")
+	return root
+}
+
+// whole reads what stands in the outermost parentheses, which alone may have a marker.
+func (l *limitReader) whole() int {
 	root := l.union()
 	if !l.takes(",") {
 		return root
@@ -71,10 +78,8 @@ func (l *limitReader) without() int {
 // operand reads what has no operator of its own, but parentheses. Within SIZE only numbers can stand, within FROM only characters.
 func (l *limitReader) operand() int {
 	switch {
-	case l.takes("("):
-		root := l.whole()
-		l.must(")")
-		return root
+	case l.sees("("):
+		return l.parenthesized(l.union)
 	case l.within == api.LimitSize:
 		return l.span()
 	case l.within == api.LimitFrom:
@@ -91,11 +96,9 @@ func (l *limitReader) operand() int {
 
 // enclosed reads the operand of LimitSize or LimitFrom.
 func (l *limitReader) enclosed(kind int) int {
-	l.must("(")
 	l.within = kind
-	operand := l.whole()
+	operand := l.parenthesized(l.union)
 	l.within = api.None
-	l.must(")")
 	return l.add(api.Limit{Kind: kind, Args: []int{operand}})
 }
 

@@ -195,7 +195,7 @@ func poison(v reflect.Value) {
 
 // R3: results share memory neither with arguments nor with one another.
 func TestMemoryOfResults(t *testing.T) {
-	s := schemaOf(t, "T", "[1] SEQUENCE (SIZE (1..2, ...)) OF SEQUENCE {a ENUMERATED {x (1)} OPTIONAL, b U DEFAULT {c {1, 2}}}", "V", "INTEGER (1..9)")
+	s := schemaOf(t, "T", "[1] SEQUENCE (SIZE (1..2), ...) OF SEQUENCE {a ENUMERATED {x (1)} OPTIONAL, b U DEFAULT {c {1, 2}}}", "V", "INTEGER (1..9)")
 	for _, y := range []api.Type{typeOf(t, "[2] T (SIZE (3), ..., SIZE (4))"), typeOf(t, "[2] T"), typeOf(t, "V (1..3)"), typeOf(t, "[1] SEQUENCE {a [3] INTEGER (1 | 2) DEFAULT {c {1, 2}}, b SET OF NULL}"), typeOf(t, "INTEGER (1 | 2)")} {
 		wantSchema, wantType := deepCopy(s), deepCopy(y)
 		resolved, e := notation.Resolved(s, y)
