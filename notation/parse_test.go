@@ -56,6 +56,9 @@ func TestTypesRead(t *testing.T) {
 		"INTEGER (((1 | 2)) | (3))":                      "INTEGER (1 | 2 | 3)",
 		"INTEGER (- 1152921504606846976..- 0)":           "INTEGER (MIN..0)",
 		"INTEGER (0..1152921504606846976)":               "INTEGER (0..MAX)",
+		"INTEGER (1152921504606846976)":                  "INTEGER (MAX)",
+		"INTEGER (-1152921504606846976 | (MAX))":         "INTEGER (MIN | MAX)",
+		"INTEGER (MIN..MIN | MAX..1152921504606846976)":  "INTEGER (MIN | MAX)",
 		"INTEGER ((1 EXCEPT 2) ^ 3)":                     "INTEGER (1 EXCEPT 2 ^ 3)",
 		"ENUMERATED {a(-0),...}":                         "ENUMERATED {a (0), ...}",
 		"OCTET STRING ('ABC'H)":                          "OCTET STRING ('ABC0'H)",
@@ -151,7 +154,7 @@ func TestTypesMisread(t *testing.T) {
 		{"SEQUENCE {a NULL OPTIONAL DEFAULT 1}", 26, api.ErrSyntax}, {"SEQUENCE {a NULL DEFAULT}", 24, api.ErrSyntax}, {"SEQUENCE {a NULL DEFAULT 1 OPTIONAL}", 27, api.ErrSyntax}, {"SEQUENCE (SIZE (1)) {a NULL}", 20, api.ErrSyntax}, {"SEQUENCE SIZE (1) OF NULL", 9, api.ErrSyntax}, {"SEQUENCE OF INTEGER (1) (2)", 24, api.ErrSyntax}, {"SEQUENCE OF NULL (1)", 17, api.ErrSyntax}, {"CHOICE OF NULL", 7, api.ErrSyntax}, {"CHOICE (1) {a NULL}", 7, api.ErrSyntax}, {"SEQUENCE NULL", 9, api.ErrSyntax},
 		{"ENUMERATED {a}", 13, api.ErrSyntax}, {"ENUMERATED {A (0)}", 12, api.ErrSyntax}, {"ENUMERATED {a (b)}", 15, api.ErrSyntax}, {"ENUMERATED {a (0), ..., [[b (1)]]}", 24, api.ErrSyntax}, {"ENUMERATED {a (0), ..., ...}", 24, api.ErrSyntax}, {"ENUMERATED {a (--0)}", 20, api.ErrEnd}, {"ENUMERATED {a (- -0)}", 17, api.ErrSyntax}, {"ENUMERATED OF NULL", 11, api.ErrSyntax},
 		{"T {}", 3, api.ErrSyntax}, {"T {5}", 3, api.ErrSyntax}, {"T {NULL,}", 8, api.ErrSyntax}, {"T {a}", 3, api.ErrSyntax}, {"C.id ({S})", 2, api.ErrSyntax}, {"C.&id", 5, api.ErrEnd}, {"C.&id {S}", 6, api.ErrSyntax}, {"C.&id ({s})", 8, api.ErrSyntax}, {"C.&id ({S}{i})", 11, api.ErrSyntax}, {"C.&id ({S}{@I})", 12, api.ErrSyntax}, {"C.&id ({S}{@i}{@i})", 14, api.ErrSyntax}, {"C.&id (S)", 7, api.ErrSyntax}, {"c.&id ({S})", 0, api.ErrSyntax}, {"C.&INTEGER ({S})", 3, api.ErrSyntax},
-		{"INTEGER ()", 9, api.ErrSyntax}, {"INTEGER (MIN)", 12, api.ErrSyntax}, {"INTEGER (MAX | 1)", 13, api.ErrSyntax}, {"INTEGER (1...5)", 10, api.ErrSyntax}, {"INTEGER (-MIN..5)", 10, api.ErrSyntax}, {"INTEGER (1, 2)", 12, api.ErrSyntax}, {"INTEGER (1, ..., 2, ...)", 18, api.ErrSyntax}, {"INTEGER (...)", 9, api.ErrSyntax}, {"INTEGER (1 EXCEPT 2 EXCEPT 3)", 20, api.ErrSyntax}, {"INTEGER (EXCEPT 1)", 9, api.ErrSyntax}, {"INTEGER (1 UNION 2)", 11, api.ErrSyntax}, {"INTEGER ((1)", 12, api.ErrEnd}, {"INTEGER (1))", 11, api.ErrSyntax}, {"INTEGER (a)", 9, api.ErrSyntax}, {"INTEGER 5", 8, api.ErrSyntax}, {"INTEGER (SIZE 1)", 14, api.ErrSyntax}, {"INTEGER {a (1)}", 8, api.ErrSyntax},
+		{"INTEGER ()", 9, api.ErrSyntax}, {"INTEGER (1...5)", 10, api.ErrSyntax}, {"INTEGER (-MIN..5)", 10, api.ErrSyntax}, {"INTEGER (1, 2)", 12, api.ErrSyntax}, {"INTEGER (1, ..., 2, ...)", 18, api.ErrSyntax}, {"INTEGER (...)", 9, api.ErrSyntax}, {"INTEGER (1 EXCEPT 2 EXCEPT 3)", 20, api.ErrSyntax}, {"INTEGER (EXCEPT 1)", 9, api.ErrSyntax}, {"INTEGER (1 UNION 2)", 11, api.ErrSyntax}, {"INTEGER ((1)", 12, api.ErrEnd}, {"INTEGER (1))", 11, api.ErrSyntax}, {"INTEGER (a)", 9, api.ErrSyntax}, {"INTEGER 5", 8, api.ErrSyntax}, {"INTEGER (SIZE 1)", 14, api.ErrSyntax}, {"INTEGER {a (1)}", 8, api.ErrSyntax},
 		{`INTEGER ("a")`, 9, api.ErrSyntax}, {`INTEGER ('1'B)`, 9, api.ErrSyntax}, {`IA5String ('1'B)`, 11, api.ErrSyntax}, {`T ('1'B)`, 3, api.ErrSyntax}, {`BIT STRING ("1")`, 12, api.ErrSyntax}, {`BIT STRING ('1'H)`, 12, api.ErrSyntax}, {`OCTET STRING ('1'B)`, 14, api.ErrSyntax}, {`NULL ("a")`, 5, api.ErrSyntax}, {`SET ("a") OF NULL`, 5, api.ErrSyntax},
 		{`IA5String ("a".."c")`, 14, api.ErrSyntax}, {`IA5String (FROM (1))`, 17, api.ErrSyntax}, {`IA5String (FROM (MIN.."c"))`, 17, api.ErrSyntax}, {`IA5String (FROM ("a".."bc"))`, 22, api.ErrSyntax}, {`IA5String (FROM ("ab".."c"))`, 21, api.ErrSyntax}, {`IA5String (FROM ("".."c"))`, 19, api.ErrSyntax}, {`IA5String (FROM ("a"..1))`, 22, api.ErrSyntax}, {`INTEGER (FROM ("a"))`, 18, api.ErrSyntax}, {`INTEGER (FROM ("ab"))`, 15, api.ErrSyntax}, {`BIT STRING (FROM ("a" | '1'B))`, 22, api.ErrSyntax}, {`IA5String (FROM ("a") | "b".."c")`, 27, api.ErrSyntax}, {`IA5String (SIZE ("a".."c"))`, 17, api.ErrSyntax},
 		{"SEQUENCE {a # NULL}", 12, api.ErrSyntax}, {"[007] NULL", 1, api.ErrSyntax}, {"[1152921504606846977] NULL", 1, api.ErrRange}, {"/* NULL", 0, api.ErrOpen}, {`IA5String ("a)`, 11, api.ErrOpen}, {"a # 1", 2, api.ErrSyntax}, {"NULL\r", 4, api.ErrForm}, {strings.Repeat("a", api.MaxName+1), 0, api.ErrName}, {strings.Repeat(" ", api.MaxText+1), 0, api.ErrLarge}, {strings.Repeat("( ", api.MaxTokens+1), 0, api.ErrLarge},
@@ -264,6 +267,21 @@ func TestMarkerWithinRead(t *testing.T) {
 		})
 	}
 	wantFramed(t, []misread{{"SEQUENCE (SIZE (1), ...) OF INTEGER ((2), ...)", 0, api.OK}, {"SEQUENCE (SIZE (1, ...)) OF NULL", 17, api.ErrSyntax}, {"SET ((SIZE (1), ...)) OF NULL", 14, api.ErrSyntax}})
+}
+
+// P2.5, P2.4: MIN and MAX are numbers, also by themselves; characters and other numbers they are not.
+func TestEndsAloneRead(t *testing.T) {
+	for _, end := range []string{"MIN", "MAX"} {
+		for _, x := range []struct{ before, after string }{
+			{"INTEGER (", ")"}, {"INTEGER ((", "))"}, {"INTEGER (5 | ", " | 6)"}, {"INTEGER (", " EXCEPT 5)"}, {"INTEGER (5 EXCEPT ", " ^ 5)"}, {"INTEGER (", ", ...)"}, {"INTEGER (5, ..., ", ")"}, {"T (SIZE (", "))"}, {"T (SIZE (5 | (", ")))"}, {"BIT STRING (", ")"}, {"IA5String (", ` | "a")`},
+		} {
+			s := x.before + end
+			wantFramed(t, []misread{{s + x.after, 0, api.OK}, {s, len(s), api.ErrEnd}, {s + "..", len(s) + 2, api.ErrEnd}, {s + " | ", len(s) + 3, api.ErrEnd}, {s + " 5", len(s) + 1, api.ErrSyntax}, {s + "...5", len(s), api.ErrSyntax}, {s + " MIN", len(s) + 1, api.ErrSyntax}})
+		}
+		wantFramed(t, []misread{
+			{"INTEGER (-" + end, 10, api.ErrSyntax}, {"INTEGER (5..-" + end, 13, api.ErrSyntax}, {"INTEGER [" + end + "] NULL", 8, api.ErrSyntax}, {"[" + end + "] NULL", 1, api.ErrSyntax}, {"ENUMERATED {a (" + end, 15, api.ErrSyntax}, {"SEQUENCE {a INTEGER DEFAULT " + end, 28, api.ErrSyntax}, {`T (FROM (` + end, 9, api.ErrSyntax},
+		})
+	}
 }
 
 // P2.5: what is read, but not right, has the error of the type at the place 0.

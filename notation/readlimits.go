@@ -88,7 +88,7 @@ func (l *limitReader) operand() int {
 		return l.enclosed(api.LimitSize)
 	case l.takes("FROM"):
 		return l.enclosed(api.LimitFrom)
-	case l.seesNumber() || l.sees("MIN", "MAX"):
+	case l.seesEnd():
 		return l.span()
 	}
 	return l.literal()
@@ -104,18 +104,18 @@ func (l *limitReader) enclosed(kind int) int {
 
 // span reads one number, or a range of them.
 func (l *limitReader) span() int {
-	isNumber := l.seesNumber()
 	n := api.Limit{Kind: api.LimitRange}
 	n.Low = l.end()
 	n.High = n.Low
-	if !isNumber || l.sees("..") {
-		l.must("..")
+	if l.takes("..") {
 		n.High = l.end()
 	}
 	return l.add(n)
 }
 
-// end reads an end of a range.
+func (l *limitReader) seesEnd() bool { return l.seesNumber() || l.sees("MIN", "MAX") }
+
+// end reads a number, which is an end of a range, or a range by itself.
 func (l *limitReader) end() int {
 	switch {
 	case l.takes("MIN"):

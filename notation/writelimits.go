@@ -60,15 +60,14 @@ func (l limitWriter) node(index, within int) {
 }
 
 func (l limitWriter) span(n api.Limit, within int) {
-	switch {
-	case within == api.LimitFrom:
+	if within == api.LimitFrom {
 		l.character(n.Low)
 		l.fixed("..")
 		l.character(n.High)
-	case n.Low == n.High:
-		l.number(n.Low)
-	default:
-		l.end(n.Low)
+		return
+	}
+	l.end(n.Low)
+	if n.High != n.Low {
 		l.fixed("..")
 		l.end(n.High)
 	}
@@ -82,7 +81,7 @@ func (l limitWriter) character(c int) {
 	l.chars(string(rune(c)))
 }
 
-// end writes an end of a range.
+// end writes a number, which is an end of a range, or a range by itself.
 func (l limitWriter) end(n int) {
 	switch n {
 	case -api.MaxInteger:
