@@ -1,6 +1,7 @@
 package notation_test
 
 import (
+	"fmt"
 	"strings"
 	"testing"
 
@@ -337,6 +338,15 @@ func TestDeepTexts(t *testing.T) {
 		{open + "1" + closed, 41, api.OK}, {open + "(1)" + closed, 22, api.ErrLarge}, {open + "()" + closed, 22, api.ErrLarge}, {open + "(", 22, api.ErrEnd},
 		{sizes + "1" + closed, len(sizes) + 20, api.OK}, {sizes + "(1)" + closed, len(sizes) + 1, api.ErrLarge}, {open + "SIZE (1)" + closed, 27, api.ErrLarge}, {open + `FROM ("a")` + closed, 27, api.ErrLarge},
 	})
+	// What stands side by side is not deep.
+	side := strings.Repeat("((1)) | ", 9) + "((1))"
+	var wide []string
+	for i := range api.MaxFields {
+		wide = append(wide, fmt.Sprintf("f%d T (SIZE (1)) DEFAULT {1}", i))
+	}
+	for _, s := range []string{"T (" + side + ")", "T (SIZE (" + side[:len(side)-8] + "))", "SEQUENCE {" + strings.Join(wide, ", ") + "}"} {
+		wantMisread(t, readType, []misread{{s, len(s), api.OK}})
+	}
 	braces := strings.Repeat("{", 20)
 	wantMisread(t, readType, []misread{
 		{"SEQUENCE {a T DEFAULT " + braces, 41, api.ErrLarge}, {"SEQUENCE {a T DEFAULT " + braces[1:], 41, api.ErrEnd}, {"SEQUENCE {a T DEFAULT " + braces[1:] + strings.Repeat("}", 20), 0, api.ErrLarge},
