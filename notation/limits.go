@@ -4,6 +4,7 @@ import (
 	"slices"
 
 	"examiner/api"
+	"examiner/copies"
 )
 
 // isTree returns whether the nodes of a constraint are one tree, or none at all.
@@ -79,7 +80,7 @@ func withBoth(before, first, second api.Limits) api.Limits {
 
 // moved returns the nodes of a constraint as they are behind so many others.
 func moved(l api.Limits, by int) api.Limits {
-	out := copyOfLimits(l)
+	out := copies.OfLimits(l)
 	for _, n := range out {
 		for i := range n.Args {
 			n.Args[i] += by

@@ -45,36 +45,3 @@ func follow(s api.Schema, ref api.Type, met int) (api.Type, api.Errno) {
 	}
 	return t, api.OK
 }
-
-// copyOfType returns a type that shares no memory with another one.
-func copyOfType(t api.Type) api.Type {
-	t.Tags = slices.Clone(t.Tags)
-	t.Fields = slices.Clone(t.Fields)
-	for i, f := range t.Fields {
-		t.Fields[i].Type = copyOfType(f.Type)
-		t.Fields[i].Default = copyOfValues(f.Default)
-	}
-	t.Of = slices.Clone(t.Of)
-	for i, of := range t.Of {
-		t.Of[i] = copyOfType(of)
-	}
-	t.Limits = copyOfLimits(t.Limits)
-	return t
-}
-
-func copyOfValues(l []api.Value) []api.Value {
-	l = slices.Clone(l)
-	for i, v := range l {
-		l[i].Names = slices.Clone(v.Names)
-		l[i].Items = copyOfValues(v.Items)
-	}
-	return l
-}
-
-func copyOfLimits(l api.Limits) api.Limits {
-	l = slices.Clone(l)
-	for i, n := range l {
-		l[i].Args = slices.Clone(n.Args)
-	}
-	return l
-}

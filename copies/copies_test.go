@@ -1,0 +1,51 @@
+package copies_test
+
+import (
+	"reflect"
+	"testing"
+
+	"examiner/api"
+	"examiner/copies"
+)
+
+// large returns a type all of whose parts are there.
+func large() api.Type {
+	value := api.Value{Kind: api.ValueRecord, Names: []string{"a"}, Items: []api.Value{{Kind: api.ValueList, Items: []api.Value{{N: 1}}}}}
+	limits := api.Limits{{Low: 1, High: 2}, {Kind: api.LimitSize, Args: []int{0}}}
+	list := api.Type{Kind: api.TypeList, Of: []api.Type{{Kind: api.TypeRef, Name: "T", Tags: []api.Tag{{Class: 1, Number: 2, Way: 1}}}}, Limits: limits}
+	return api.Type{Kind: api.TypeSet, Tags: []api.Tag{{Class: 2}}, Fields: []api.Field{{Name: "x", Type: list, Presence: api.FieldDefault, Default: []api.Value{value}}, {Name: "y", Group: 1}}, Open: true, Root: 1}
+}
+
+// poison overwrites all that slices hold.
+func poison(v reflect.Value) {
+	switch v.Kind() {
+	case reflect.Slice:
+		for i := range v.Len() {
+			poison(v.Index(i))
+			v.Index(i).SetZero()
+		}
+	case reflect.Struct:
+		for i := range v.NumField() {
+			poison(v.Field(i))
+		}
+	}
+}
+
+func wantCopy[T any](t *testing.T, original, copied, want T) {
+	t.Helper()
+	poison(reflect.ValueOf(original))
+	if !reflect.DeepEqual(copied, want) {
+		t.Errorf("%+v, want %+v", copied, want)
+	}
+}
+
+// R3: what is done to the original does not matter to the copy.
+func TestCopies(t *testing.T) {
+	y := large()
+	wantCopy(t, y, copies.OfType(y), large())
+	values := large().Fields[0].Default
+	wantCopy(t, values, copies.OfValues(values), large().Fields[0].Default)
+	limits := large().Fields[0].Type.Limits
+	wantCopy(t, limits, copies.OfLimits(limits), large().Fields[0].Type.Limits)
+	wantCopy(t, api.Type{}, copies.OfType(api.Type{}), api.Type{})
+}
