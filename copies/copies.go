@@ -23,12 +23,18 @@ func OfType(t api.Type) api.Type {
 	return t
 }
 
+// OfValue returns a value that shares no memory with another one.
+func OfValue(v api.Value) api.Value {
+	v.Names = slices.Clone(v.Names)
+	v.Items = OfValues(v.Items)
+	return v
+}
+
 // OfValues returns values that share no memory with others.
 func OfValues(l []api.Value) []api.Value {
 	l = slices.Clone(l)
 	for i, v := range l {
-		l[i].Names = slices.Clone(v.Names)
-		l[i].Items = OfValues(v.Items)
+		l[i] = OfValue(v)
 	}
 	return l
 }

@@ -43,6 +43,8 @@ func wantCopy[T any](t *testing.T, original, copied, want T) {
 func TestCopies(t *testing.T) {
 	y := large()
 	wantCopy(t, y, copies.OfType(y), large())
+	value := large().Fields[0].Default[0]
+	wantCopy(t, value, copies.OfValue(value), large().Fields[0].Default[0])
 	values := large().Fields[0].Default
 	wantCopy(t, values, copies.OfValues(values), large().Fields[0].Default)
 	limits := large().Fields[0].Type.Limits
