@@ -357,3 +357,17 @@ func TestGreatDefaults(t *testing.T) {
 		wantResult(t, fmt.Sprint("a default of ", 27+n, " numbers"), 0, e, 0, want)
 	}
 }
+
+// P6.2: the name of an open value is no reference: it stays, and reaches no type.
+func TestOpenValuesInDefaults(t *testing.T) {
+	l := programOf(t, "M EXPLICIT IMPORTS T FROM N; A ::= SEQUENCE {a ANY} B ::= SET OF INTEGER", "N EXPLICIT T ::= INTEGER U ::= NULL")
+	for name, want := range map[string]api.Errno{"B": api.OK, "T": api.ErrMissing, "N_T": api.ErrMissing, "U": api.ErrMissing} {
+		l[0].Items[0].Type = putDefault(l[0].Items[0].Type, 0, open(name, list()))
+		v, e := defaultIn(t, l)
+		wantV := api.Value{}
+		if want == api.OK {
+			wantV = open(name, bag())
+		}
+		wantResult(t, "an open value of "+name, v, e, wantV, want)
+	}
+}
