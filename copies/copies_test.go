@@ -16,6 +16,21 @@ func large() api.Type {
 	return api.Type{Kind: api.TypeSet, Tags: []api.Tag{{Class: 2}}, Fields: []api.Field{{Name: "x", Type: list, Presence: api.FieldDefault, Default: []api.Value{value}}, {Name: "y", Group: 1}}, Open: true, Root: 1}
 }
 
+// whole returns a module all of whose parts are there.
+func whole() api.AsnModule {
+	t := large()
+	a := api.Assigned{
+		Params:   []string{"X"},
+		Type:     t,
+		Value:    large().Fields[0].Default[0],
+		Class:    []api.ClassField{{Name: "id", Fixed: []api.Type{large()}}, {Name: "T"}},
+		Settings: []api.Setting{{Name: "id", Value: large().Fields[0].Default}, {Name: "T", Type: []api.Type{large()}}},
+		Names:    []string{"o", "p"},
+	}
+	imports := []api.Import{{Module: "N", Names: []string{"A", "B"}}, {Module: "O", Names: []string{"C"}}}
+	return api.AsnModule{Name: "M", Way: 1, Exports: []string{"D", "E"}, Imports: imports, Items: []api.Assigned{a, {Kind: 2, Of: "F", Open: true}}}
+}
+
 // poison overwrites all that slices hold.
 func poison(v reflect.Value) {
 	switch v.Kind() {
@@ -47,7 +62,14 @@ func TestCopies(t *testing.T) {
 	wantCopy(t, value, copies.OfValue(value), large().Fields[0].Default[0])
 	values := large().Fields[0].Default
 	wantCopy(t, values, copies.OfValues(values), large().Fields[0].Default)
+	types := large().Fields[0].Type.Of
+	wantCopy(t, types, copies.OfTypes(types), large().Fields[0].Type.Of)
+	m := whole()
+	wantCopy(t, m, copies.OfModule(m), whole())
+	item := whole().Items[0]
+	wantCopy(t, item, copies.OfItem(item), whole().Items[0])
 	limits := large().Fields[0].Type.Limits
 	wantCopy(t, limits, copies.OfLimits(limits), large().Fields[0].Type.Limits)
 	wantCopy(t, api.Type{}, copies.OfType(api.Type{}), api.Type{})
+	wantCopy(t, api.AsnModule{}, copies.OfModule(api.AsnModule{}), api.AsnModule{})
 }
